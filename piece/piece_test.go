@@ -213,6 +213,13 @@ func TestAll(t *testing.T) {
 	}
 }
 
+// TestAllByHand: P1: nobody asks for a piece.
+func TestAllByHand(t *testing.T) {
+	for _, u := range []Text{{}, Of("a"), build(t, "a", "bc")} {
+		u.All()(nil)
+	}
+}
+
 // TestEditAll: 8.1 and 8.2: all edits of texts in pieces of all kinds, right and wrong; each text stays what it was.
 func TestEditAll(t *testing.T) {
 	const was = "abcdef"
